@@ -88,6 +88,8 @@ func bads() []api.Version {
 	add(func(v *api.Version) { v.Tables[1].Place.ID = 3 })
 	add(func(v *api.Version) { v.Tables[1].Place.ID = 2 })
 	add(func(v *api.Version) { v.Tables[0].Place.ID = 4 })
+	add(func(v *api.Version) { v.Tables[0].Place.ID, v.Tables[1].Place.ID = 4, 3 })
+	add(func(v *api.Version) { v.Logs[0].Place.ID, v.Logs[1].Place.ID = 5, 2 })
 	add(func(v *api.Version) { v.Tables[2].Place.ID = 5 })
 	add(func(v *api.Version) { v.Tables[5].Place.ID = 20 })
 	add(func(v *api.Version) { v.Logs[2].Place.ID = 20 })

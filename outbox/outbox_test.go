@@ -211,6 +211,12 @@ func TestP21_7KeysThereAndBack(t *testing.T) {
 			t.Fatal("OutsKey's is none")
 		}
 	}
+	for _, n := range []int{0, api.MaxTime} {
+		k, e := outbox.HoldKey("a", n)
+		splits(t, k, e, "h", "a", n)
+		k, e = outbox.OutKey(15, n)
+		splits(t, k, e, "o", "\x0f", n)
+	}
 	splits(t, outbox.ClockKey(), api.OK, "t", "", 0)
 }
 
@@ -238,8 +244,12 @@ func TestP21_4Bytes(t *testing.T) {
 		}
 	}
 	for _, x := range []api.Inbox{{}, box(300, 2), box(top, math.MaxUint64-1)} {
-		if b, e := outbox.InboxBytes(x); e != api.OK || !bytes.Equal(b, nums(uint64(x.Floor), x.Mask)) {
+		want := nums(uint64(x.Floor), x.Mask)
+		if b, e := outbox.InboxBytes(x); e != api.OK || !bytes.Equal(b, want) {
 			t.Error(x, b, e)
+		}
+		if got, e := outbox.ReadInbox(want); e != api.OK || got != x {
+			t.Error(x, got, e)
 		}
 	}
 	for _, x := range wrong() {
@@ -248,8 +258,12 @@ func TestP21_4Bytes(t *testing.T) {
 		}
 	}
 	for _, x := range []api.Intent{{Key: "a", N: 1}, {Key: strings.Repeat("n", 16), N: api.MaxTotal}, {Key: "\x00", N: 300}} {
-		if b, e := outbox.IntentBytes(x); e != api.OK || !bytes.Equal(b, slices.Concat(nums(uint64(len(x.Key))), []byte(x.Key), nums(uint64(x.N)))) {
+		want := slices.Concat(nums(uint64(len(x.Key))), []byte(x.Key), nums(uint64(x.N)))
+		if b, e := outbox.IntentBytes(x); e != api.OK || !bytes.Equal(b, want) {
 			t.Error(x, b, e)
+		}
+		if got, e := outbox.ReadIntent(want); e != api.OK || got != x {
+			t.Error(x, got, e)
 		}
 	}
 	for _, x := range []api.Intent{{}, {Key: "a"}, {N: 1}, {Key: strings.Repeat("n", 17), N: 1}, {Key: "a", N: -1}, {Key: "a", N: api.MaxTotal + 1}, {Key: "a", N: math.MinInt}, {Key: "a", N: math.MaxInt}} {

@@ -94,12 +94,12 @@ func TestP28_1Print(t *testing.T) {
 	if x, e := play.Print(api.Script{}); e != api.OK || x != "lien 0 0 0 0 0\n" {
 		t.Error(x, e)
 	}
-	head := len("lien 0 0 0 0 0\nask =\n")
+	head := len("lien 10 0 0 0 0\nask =\n")
 	n := (api.MaxScript - head) / 2
 	for more := range 2 {
-		s := api.Script{Deeds: []api.Deed{{Kind: api.DAsk, Text: strings.Repeat("x", n+more)}}}
+		s := api.Script{Sectors: 10, Deeds: []api.Deed{{Kind: api.DAsk, Text: strings.Repeat("x", n+more)}}}
 		x, e := play.Print(s)
-		if long := head+2*(n+more) > api.MaxScript; (e == api.ErrLong) != long || long && x != "" || !long && (e != api.OK || len(x) != head+2*n) {
+		if more == 0 && (e != api.OK || len(x) != api.MaxScript) || more == 1 && (e != api.ErrLong || x != "") {
 			t.Error(more, e, len(x))
 		}
 	}
@@ -178,7 +178,6 @@ func TestP28_2ParseAtTheEdges(t *testing.T) {
 	}
 	wrong(t, full+"tock\n", api.MaxDeeds+2)
 	wrong(t, full+"tick", api.MaxDeeds+2)
-	wrong(t, full+"tick\ntock\n", api.MaxDeeds+3)
 	n := (api.MaxScript - len(head) - len("ask =\n")) / 2
 	for more := range 2 {
 		x := head + "ask =" + strings.Repeat("61", n+more) + "\n"

@@ -148,6 +148,13 @@ func TestP6_4Take(t *testing.T) {
 	if l, e := m.Take(0); e != api.OK || len(l) > 0 || m.Free() != 1 {
 		t.Error(l, e)
 	}
+	all := made(t, 4+8*6)
+	if l, e := all.Take(3); e != api.OK || !slices.Equal(l, []api.Pair{{A: 0, B: 1}, {A: 2, B: 3}, {A: 4, B: 5}}) || all.Free() != 0 {
+		t.Error("all that are free", l, e)
+	}
+	if l, e := all.Take(0); e != api.OK || len(l) > 0 {
+		t.Error(l, e)
+	}
 	m = made(t, 4096)
 	for _, n := range []int{math.MinInt, -1, 65, math.MaxInt} {
 		if l, e := m.Take(n); e != api.ErrArg || len(l) > 0 {

@@ -603,8 +603,8 @@ func TestP19_5CompactErrors(t *testing.T) {
 	if did, e := s.Compact(); did || e != api.ErrRot || !edit.Same(s.Version(), v) || s.Free() != free || s.Halted() {
 		t.Error(did, e)
 	}
-	if w, e := s.Tick(); w != api.WCompact || e != api.ErrRot {
-		t.Error(w, e)
+	if _, e := s.Tick(); e != api.ErrRot {
+		t.Error(e)
 	}
 	if _, is, e := s.Get("a", 0); is || e != api.ErrRot {
 		t.Error(is, e)
@@ -837,8 +837,8 @@ func TestP19_9Halted(t *testing.T) {
 	o, p := fresh(t, 600, small())
 	must(t, o, put("a", "x"))
 	p.Fuse(0)
-	if w, e := o.Tick(); w != api.WSync || e != api.ErrDown || !o.Halted() {
-		t.Error(w, e)
+	if _, e := o.Tick(); e != api.ErrDown || !o.Halted() {
+		t.Error(e)
 	}
 	errors(t, o, api.ErrHalted)
 }
@@ -1358,5 +1358,166 @@ func TestP19_3AGroupHas256Records(t *testing.T) {
 	ok(t, s.Sync())
 	if o := opened(t, d, small()); o.Seq() != 600 || rows(t, o) != "k=x;" {
 		t.Error(o.Seq())
+	}
+}
+
+func TestP19_2OpenReadsWhatIsAtTheLimits(t *testing.T) {
+	many := make([]api.Write, 64)
+	for i := range many {
+		many[i] = put(strings.Repeat("k", 63)+string([]byte{byte(i)}), "")
+	}
+	s, d := fresh(t, 800, api.Conf{Mem: 1000, LogPairs: 16, ManPairs: 1, TableBytes: 4096})
+	must(t, s, many...)
+	must(t, s, put("v", strings.Repeat("v", 256)))
+	ok(t, s.Sync())
+	was := rows(t, s)
+	o := opened(t, d, small())
+	if o.Seq() != 2 || rows(t, o) != was {
+		t.Error(o.Seq())
+	}
+	v := api.Version{Next: 2, Seq: api.MaxSeq - 1, Logs: []api.Log{{Place: place(1, 2, 3), Sealed: -1}}}
+	last := opened(t, laid(t, place(1, 0, 1), v, [][]byte{record(api.MaxSeq, put("a", "x"))}), small())
+	if last.Seq() != api.MaxSeq || rows(t, last) != "a=x;" {
+		t.Error(last.Seq())
+	}
+}
+
+func TestP19_3JustRoomForAnotherLog(t *testing.T) {
+	c := api.Conf{Mem: 1000, LogPairs: 1, ManPairs: 1, TableBytes: 4096}
+	s, d := fresh(t, 4+8*8, c) // eight plots: two of the manifest, two of the log, two of another log, and as many as a manifest needs
+	for range 8 {
+		must(t, s, put("k", "x"))
+		ok(t, s.Sync())
+	}
+	must(t, s, put("k", "y"))
+	if s.Free() != 2 || len(s.Version().Logs) != 2 {
+		t.Error(s.Free())
+	}
+	tight(t, s, d)
+	for range 8 {
+		ok(t, s.Sync())
+		if _, e := s.Apply(put("k", "z")); e != api.OK {
+			if e != api.ErrSpace || s.Seq() != 16 {
+				t.Error(e, s.Seq())
+			}
+			return
+		}
+	}
+	t.Error("there is no room for a third one")
+}
+
+func TestP19_5CompactLeavesTheOthers(t *testing.T) {
+	s, d := fresh(t, 1600, api.Conf{Mem: 1000, LogPairs: 1, ManPairs: 8, TableBytes: 256})
+	far := func(k string) {
+		t.Helper()
+		for i := range 4 {
+			must(t, s, put(k+string([]byte{byte('0' + i)}), strings.Repeat("v", 100)))
+			ok(t, s.Flush())
+		}
+		if did, e := s.Compact(); !did || e != api.OK {
+			t.Fatal(did, e)
+		}
+	}
+	far("a")
+	ahead := s.Version()
+	far("x")
+	behind := s.Version()
+	for _, x := range ahead.Tables {
+		if !slices.ContainsFunc(behind.Tables, func(y api.Table) bool { return reflect.DeepEqual(x, y) }) {
+			t.Error("a table that no job names stays", x, behind)
+		}
+	}
+	if len(behind.Tables) != 2*len(ahead.Tables) {
+		t.Error(behind)
+	}
+	tight(t, s, d)
+	far("a") // the first ones are met now, the others are not
+	last := s.Version()
+	for _, x := range behind.Tables {
+		stays := slices.ContainsFunc(last.Tables, func(y api.Table) bool { return reflect.DeepEqual(x, y) })
+		if stays != (x.Low >= "x") {
+			t.Error(x, stays)
+		}
+	}
+}
+
+func TestP19_5CompactThatIsCutOff(t *testing.T) {
+	for n := 0; ; n++ {
+		s, d := fresh(t, 600, small())
+		for i := range 4 {
+			must(t, s, put("a"+string([]byte{byte('0' + i)}), strings.Repeat("v", 90)))
+			ok(t, s.Flush())
+		}
+		v, free := s.Version(), s.Free()
+		d.Fuse(n)
+		did, e := s.Compact()
+		if e == api.OK {
+			if !did || n < 12 {
+				t.Error(n, did)
+			}
+			break
+		}
+		if e != api.ErrDown || did || !s.Halted() || !edit.Same(s.Version(), v) || s.Free() != free {
+			t.Error(n, e, s.Free(), free)
+		}
+	}
+}
+
+func TestP19_6ScanHalts(t *testing.T) {
+	for i := range 2 {
+		s, d := fresh(t, 600, small())
+		must(t, s, put("a", "x"))
+		ok(t, s.Flush())
+		d.Fuse(0)
+		var e api.Errno
+		if i == 0 {
+			_, e = s.Rows()
+		} else {
+			_, e = s.Scan("a", "b", 0)
+		}
+		if e != api.ErrDown || !s.Halted() {
+			t.Error(i, e)
+		}
+	}
+}
+
+func TestP19_8ScrubLooksAtAllFramesOfATable(t *testing.T) {
+	seen := map[int]int{}
+	for n := range 230 {
+		s, d := fresh(t, 600, small())
+		must(t, s, put("a", strings.Repeat("v", n)))
+		ok(t, s.Flush())
+		man, _ := super.Load(d)
+		m, _ := manifest.Load(d, man, man.Epoch)
+		size := s.Version().Tables[0].Size
+		seen[size%108]++
+		if x, e := s.Scrub(); e != api.OK || x.Looked != m.Part().Frames+(size+107)/108 {
+			t.Fatal(n, x, size)
+		}
+	}
+	if seen[0] == 0 || seen[1] == 0 || seen[107] == 0 {
+		t.Error(seen)
+	}
+}
+
+func TestP19_3AManifestThatDoesNotMove(t *testing.T) {
+	cut := 0
+	for n := range 200 {
+		s, d := fresh(t, 600, small())
+		d.Fuse(n)
+		for i := 0; !s.Halted() && i < 12; i++ {
+			s.Apply(put("a", string([]byte{byte(i)})))
+			free, v := s.Free(), s.Version()
+			e := s.Flush()
+			if e == api.OK {
+				continue
+			}
+			if cut++; e != api.ErrDown || !s.Halted() || s.Free() != free || !edit.Same(s.Version(), v) {
+				t.Fatal(n, e, s.Free(), free)
+			}
+		}
+	}
+	if cut < 100 {
+		t.Error(cut)
 	}
 }

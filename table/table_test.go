@@ -147,6 +147,7 @@ func opened(t *testing.T, l []api.Entry) (*table.Table, *disk.Disk, api.Table) {
 func wrong() [][]api.Entry {
 	return [][]api.Entry{
 		nil, {{}}, {{Key: "a"}}, {{Key: "", Seq: 1}}, {{Key: "a", Seq: 1, Del: true, Val: []byte{1}}}, {{Key: "a", Seq: api.MaxSeq + 1}}, {{Key: "a", Seq: 1, Val: make([]byte, 257)}},
+		{{Key: "b", Seq: 1, Val: make([]byte, 240)}, {Key: "a", Seq: 1, Val: make([]byte, 240)}}, {{Key: "a", Seq: 1, Val: make([]byte, 240)}, {Key: "a", Seq: 1, Val: make([]byte, 240)}}, {{Key: "a", Seq: 1, Val: make([]byte, 240)}, {Key: "a", Seq: 2}},
 		{{Key: "b", Seq: 1}, {Key: "a", Seq: 1}}, {{Key: "a", Seq: 1}, {Key: "a", Seq: 1}}, {{Key: "a", Seq: 1}, {Key: "a", Seq: 2}}, {{Key: "a", Seq: 2}, {Key: "a", Seq: 1}, {Key: "", Seq: 1}},
 	}
 }
@@ -662,7 +663,7 @@ func TestP13_8RightOrAnError(t *testing.T) {
 func TestRulesOwnMemory(t *testing.T) {
 	l := []api.Entry{{Key: "a", Seq: 1, Val: []byte("abc")}}
 	o, d, x := opened(t, l)
-	x.Place.Pairs[0].A = 77
+	x.Place.Pairs[0] = api.Pair{A: 77, B: 78}
 	l[0].Val[0] = 'z'
 	b, _ := table.Build(l...)
 	l[0].Val[0] = 'q'

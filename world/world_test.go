@@ -253,6 +253,10 @@ func TestP27_2Refused(t *testing.T) {
 		doing(t, w, api.Deed{Kind: api.DOffer, A: 1, B: 1, Text: "a"})
 	}
 	refuses(t, w, api.Deed{Kind: api.DOffer, A: 1, B: 1, Text: "a"}, api.ErrCrowded)
+	doing(t, w, api.Deed{Kind: api.DOffer, A: 15, B: 1, Text: "a"}, deed(api.DLose, 64))
+	if len(w.Sent(15)) != 1 {
+		t.Error(w.Sent(15))
+	}
 	if len(w.Mails()) != 64 || !w.Open() {
 		t.Error(len(w.Mails()))
 	}
