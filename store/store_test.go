@@ -1383,27 +1383,23 @@ func TestP19_2OpenReadsWhatIsAtTheLimits(t *testing.T) {
 }
 
 func TestP19_3JustRoomForAnotherLog(t *testing.T) {
-	c := api.Conf{Mem: 1000, LogPairs: 1, ManPairs: 1, TableBytes: 4096}
-	s, d := fresh(t, 4+8*8, c) // eight plots: two of the manifest, two of the log, two of another log, and as many as a manifest needs
-	for range 8 {
-		must(t, s, put("k", "x"))
-		ok(t, s.Sync())
-	}
-	must(t, s, put("k", "y"))
-	if s.Free() != 2 || len(s.Version().Logs) != 2 {
-		t.Error(s.Free())
-	}
-	tight(t, s, d)
-	for range 8 {
-		ok(t, s.Sync())
-		if _, e := s.Apply(put("k", "z")); e != api.OK {
-			if e != api.ErrSpace || s.Seq() != 16 {
-				t.Error(e, s.Seq())
-			}
-			return
+	for _, x := range []struct {
+		logPairs, manPairs, plots int
+		want                      api.Errno
+	}{
+		// Plots of the manifest, of the log, of another log, and as many as the manifest needs to go elsewhere.
+		{1, 1, 8, api.OK}, {1, 1, 7, api.ErrSpace}, {2, 1, 12, api.OK}, {2, 1, 11, api.ErrSpace}, {1, 3, 16, api.OK}, {1, 3, 15, api.ErrSpace},
+	} {
+		s, d := fresh(t, 4+8*x.plots, api.Conf{Mem: 1000, LogPairs: x.logPairs, ManPairs: x.manPairs, TableBytes: 4096})
+		for range 8 * x.logPairs {
+			must(t, s, put("k", "x"))
+			ok(t, s.Sync())
 		}
+		if _, e := s.Apply(put("k", "y")); e != x.want || (len(s.Version().Logs) == 2) != (e == api.OK) {
+			t.Error(x, e)
+		}
+		tight(t, s, d)
 	}
-	t.Error("there is no room for a third one")
 }
 
 func TestP19_5CompactLeavesTheOthers(t *testing.T) {
