@@ -193,6 +193,27 @@ func TestP18_2PassRefused(t *testing.T) {
 	}
 }
 
+// TestP18_2PassWithAFuse: the disk is down behind what super.Mend wrote, which tells no error; the first error is that of what comes behind.
+func TestP18_2PassWithAFuse(t *testing.T) {
+	none, wrong, long := parts()[0], parts()[0], parts()[0]
+	none.Frames, wrong.Place.ID, long.Kind = 0, 0, 9
+	for spoilt := range 2 {
+		for i, x := range []struct {
+			l    []api.Part
+			want api.Errno
+		}{
+			{nil, api.ErrDown}, {parts(), api.ErrDown}, {[]api.Part{none}, api.ErrDown}, {[]api.Part{none, wrong}, api.ErrFile}, {[]api.Part{long, wrong}, api.ErrArg}, {[]api.Part{parts()[1], wrong}, api.ErrDown},
+		} {
+			d := laid(t)
+			d.Rot(spoilt, 20, 1)
+			d.Fuse(1)
+			if s, e := scrub.Pass(d, x.l...); e != x.want || s != (api.Scrubbed{}) || d.Done() != laid(t).Done()+1 {
+				t.Error(spoilt, i, s, e)
+			}
+		}
+	}
+}
+
 func TestP18_3Bad(t *testing.T) {
 	d := laid(t)
 	if l, e := scrub.Bad(d, parts()...); e != api.OK || len(l) > 0 {

@@ -340,6 +340,43 @@ func TestP5_4MendErrors(t *testing.T) {
 	}
 }
 
+// TestP5_4MendWithAFuse: what a copy is stands on the disk ahead of any writing, also where the disk is down behind the writing.
+func TestP5_4MendWithAFuse(t *testing.T) {
+	for _, newest := range []int{2, 3} {
+		from := newest % 2 * 2
+		for spoilt := -1; spoilt < 2; spoilt++ {
+			for fuse := range 4 {
+				d := blank(t, 4)
+				super.Save(d, gen(newest-1))
+				super.Save(d, gen(newest))
+				var loose []api.Loose
+				if spoilt >= 0 {
+					d.Rot(from+spoilt, 20, 1)
+					loose = append(loose, api.Loose{At: from + spoilt, Many: 1})
+				}
+				d.Fuse(fuse)
+				want := api.OK
+				if fuse == 0 {
+					want, loose = api.ErrDown, nil
+				}
+				if n, e := super.Mend(d); n != len(loose) || e != want || !reflect.DeepEqual(d.Loose(), loose) {
+					t.Error(newest, spoilt, fuse, n, e, d.Loose())
+				}
+			}
+		}
+	}
+	for at, other := range []int{1, 0} {
+		d := blank(t, 4)
+		d.Write(at, sector(gen(2)))
+		d.Write(other, sector(gen(4)))
+		d.Flush()
+		d.Fuse(1)
+		if n, e := super.Mend(d); n != 1 || e != api.OK || !d.Down() || !reflect.DeepEqual(d.Loose(), []api.Loose{{At: at, Many: 1}}) {
+			t.Error(at, n, e, d.Loose())
+		}
+	}
+}
+
 func TestP5_5ThereAndBack(t *testing.T) {
 	r := rand.New(rand.NewPCG(5, 5))
 	for range 5000 {
